@@ -91,44 +91,35 @@ func plainSplit(text string) (hash, name string, steps []string, e api.Errno, at
 // holdBase holds ParseBase of a text against the plain one.
 func holdBase(t *testing.T, text string) {
 	t.Helper()
-	l, e, at := ParseBase(text)
-	hash, name, we, wp := plainBase(text)
-	if e != we || at != wp {
-		t.Fatalf("ParseBase(%.60q) = %d, %d, want %d, %d", text, e, at, we, wp)
-	}
-	if e != api.OK {
-		if l != (api.Label{}) {
-			t.Fatalf("ParseBase(%.60q) answers %v beside an error", text, l)
-		}
-		return
-	}
-	if digest.Base32(l.Hash[:]) != hash || l.Name != name {
-		t.Fatalf("ParseBase(%.60q) = %v", text, l)
-	}
-	if s, e := Base(l); s != text || e != api.OK {
-		t.Fatalf("Base of ParseBase(%.60q) = %q, %d", text, s, e)
-	}
+	holdRead(t, text, "ParseBase", ParseBase, plainBase, Base)
 }
 
 // holdParse holds Parse of a text against the plain one.
 func holdParse(t *testing.T, text string) {
 	t.Helper()
-	l, e, at := Parse(text)
-	hash, name, we, wp := plainParse(text)
+	holdRead(t, text, "Parse", Parse, plainParse, Print)
+}
+
+// holdRead holds what a reader says of a text against the plain one, and what it takes against the printer.
+func holdRead(t *testing.T, text, what string, read func(string) (api.Label, api.Errno, int),
+	plain func(string) (string, string, api.Errno, int), write func(api.Label) (string, api.Errno)) {
+	t.Helper()
+	l, e, at := read(text)
+	hash, name, we, wp := plain(text)
 	if e != we || at != wp {
-		t.Fatalf("Parse(%.60q) = %d, %d, want %d, %d", text, e, at, we, wp)
+		t.Fatalf("%s of %.60q = %d, %d, want %d, %d", what, text, e, at, we, wp)
 	}
 	if e != api.OK {
 		if l != (api.Label{}) {
-			t.Fatalf("Parse(%.60q) answers %v beside an error", text, l)
+			t.Fatalf("%s of %.60q answers %v beside an error", what, text, l)
 		}
 		return
 	}
 	if digest.Base32(l.Hash[:]) != hash || l.Name != name {
-		t.Fatalf("Parse(%.60q) = %v", text, l)
+		t.Fatalf("%s of %.60q = %v", what, text, l)
 	}
-	if s, e := Print(l); s != text || e != api.OK {
-		t.Fatalf("Print of Parse(%.60q) = %q, %d", text, s, e)
+	if s, e := write(l); s != text || e != api.OK {
+		t.Fatalf("%s of %.60q, and back = %q, %d", what, text, s, e)
 	}
 }
 
