@@ -4,6 +4,7 @@ import (
 	"bytes"
 
 	"graft/api"
+	"graft/lay"
 )
 
 // layer lays words down one behind the other, or only counts their bytes, so that a tree has one size and one archive.
@@ -39,9 +40,9 @@ func (l *layer) say(list ...word) {
 
 // give lays down a word that the tree says.
 func (l *layer) give(text []byte) {
-	l.size += wordSize(len(text))
+	l.size += lay.WordSize(len(text))
 	if l.keeps {
-		l.out = appendWord(l.out, text)
+		l.out = lay.Word(l.out, text)
 	}
 }
 

@@ -2,6 +2,7 @@ package ark
 
 import (
 	"graft/api"
+	"graft/lay"
 )
 
 // state is what a reader does as soon as the bytes are there for which it waits; it answers the state behind it, or none if something is wrong.
@@ -120,7 +121,7 @@ func (r *Reader) await(then state, may ...word) state {
 // awaitForm lets a word come, ahead of a state.
 func (r *Reader) awaitForm(then state, f form) state {
 	r.at, r.form, r.then = r.fed, f, then
-	return r.wait(lengthBytes, readLength)
+	return r.wait(lay.NumberSize, readLength)
 }
 
 // readLength has a word's length, and lets its text come.
@@ -130,7 +131,7 @@ func readLength(r *Reader) state {
 		length |= uint64(b) << (8 * i)
 	}
 	// Asked ahead of the sum: eight bytes can say more than an int holds.
-	if length > api.MaxArk || r.at+wordSize(int(length)) > api.MaxArk {
+	if length > api.MaxArk || r.at+lay.WordSize(int(length)) > api.MaxArk {
 		return r.fail(api.ErrLarge, r.at)
 	}
 	n := int(length)
@@ -187,7 +188,7 @@ func readText(r *Reader) state {
 // padded goes on behind the word, if no padding is left of it.
 func padded(r *Reader) state {
 	// Words begin at multiples of eight, so the place alone tells where they end.
-	if r.fed%lengthBytes == 0 {
+	if r.fed%lay.NumberSize == 0 {
 		return r.then(r)
 	}
 	return r.wait(1, readPadding)
@@ -221,7 +222,7 @@ func (r *Reader) takeWord() (api.Errno, int) {
 func (r *Reader) takeName() (api.Errno, int) {
 	r.text = string(r.held)
 	if bar := nameBar(r.text); bar >= 0 {
-		return api.ErrEntry, r.at + lengthBytes + bar
+		return api.ErrEntry, r.at + lay.NumberSize + bar
 	}
 	if isDots(r.text) {
 		return api.ErrEntry, r.at
@@ -237,7 +238,7 @@ func (r *Reader) takeName() (api.Errno, int) {
 func (r *Reader) takeLink() (api.Errno, int) {
 	r.text = string(r.held)
 	if bar := targetBar(r.text); bar >= 0 {
-		return api.ErrLink, r.at + lengthBytes + bar
+		return api.ErrLink, r.at + lay.NumberSize + bar
 	}
 	return api.OK, 0
 }

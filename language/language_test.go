@@ -107,7 +107,7 @@ func TestFolders(t *testing.T) {
 
 // Rule 2: no file beside the Go files.
 func TestGoFilesAlone(t *testing.T) {
-	for _, p := range packages {
+	for _, p := range folders(t) {
 		list, err := os.ReadDir(filepath.Join(root, p))
 		if err != nil {
 			t.Fatal(err)

@@ -1,0 +1,27 @@
+// Package lay lays numbers and words down as bytes, in the one form that archives, groups' texts and messages have.
+package lay
+
+// NumberSize is how many bytes a number has; a word takes a multiple of it.
+const NumberSize = 8
+
+// Number lays down a number behind what is there, the lowest byte first.
+func Number(out []byte, n int) []byte {
+	for i := range NumberSize {
+		out = append(out, byte(n>>(8*i)))
+	}
+	return out
+}
+
+// Word lays down a word behind what is there: how many bytes it has, these, and bytes 0 up to a multiple of eight.
+func Word(out, text []byte) []byte {
+	out = append(Number(out, len(text)), text...)
+	for range WordSize(len(text)) - NumberSize - len(text) {
+		out = append(out, 0)
+	}
+	return out
+}
+
+// WordSize is how many bytes the word of a text of n bytes has.
+func WordSize(n int) int {
+	return NumberSize + (n+NumberSize-1)/NumberSize*NumberSize
+}

@@ -1,0 +1,39 @@
+package lay
+
+import (
+	"encoding/binary"
+	"math"
+	"strings"
+	"testing"
+)
+
+func TestNumber(t *testing.T) {
+	for _, n := range []int{0, 1, 255, 256, 0x0102030405060708, math.MaxInt, -1, -256, math.MinInt} {
+		want := "x" + string(binary.LittleEndian.AppendUint64(nil, uint64(n)))
+		if got := string(Number([]byte("x"), n)); got != want || len(got) != 1+NumberSize {
+			t.Errorf("Number(%d) = %q, want %q", n, got, want)
+		}
+	}
+}
+
+func TestWord(t *testing.T) {
+	for n := range 300 {
+		text := strings.Repeat("t", n)
+		padding := strings.Repeat("\x00", (8-n%8)%8)
+		want := "x" + string(binary.LittleEndian.AppendUint64(nil, uint64(n))) + text + padding
+		if got := string(Word([]byte("x"), []byte(text))); got != want {
+			t.Errorf("Word of %d bytes = %q, want %q", n, got, want)
+		}
+		if WordSize(n) != len(want)-1 {
+			t.Errorf("WordSize(%d) = %d, want %d", n, WordSize(n), len(want)-1)
+		}
+	}
+}
+
+// Nothing but its own bytes is written: what stands behind a word of another list stays.
+func TestWordHandedIn(t *testing.T) {
+	text := []byte("abcroom")
+	if got := string(Word(nil, text[:3])); got != "\x03\x00\x00\x00\x00\x00\x00\x00abc\x00\x00\x00\x00\x00" || string(text) != "abcroom" {
+		t.Errorf("%q, %q", got, text)
+	}
+}
