@@ -1,8 +1,11 @@
-// Package lay lays numbers and words down as bytes, in the one form that archives, groups' texts and messages have.
+// Package lay lays numbers and words down as bytes, in the forms that archives, groups' texts, records and messages have.
 package lay
 
 // NumberSize is how many bytes a number has; a word takes a multiple of it.
 const NumberSize = 8
+
+// HalfSize is how many bytes a number has where four are enough.
+const HalfSize = 4
 
 // Number lays down a number behind what is there, the lowest byte first.
 func Number(out []byte, n int) []byte {
@@ -10,6 +13,23 @@ func Number(out []byte, n int) []byte {
 		out = append(out, byte(n>>(8*i)))
 	}
 	return out
+}
+
+// Half lays down a number in four bytes behind what is there, the lowest byte first.
+func Half(out []byte, n uint32) []byte {
+	for i := range HalfSize {
+		out = append(out, byte(n>>(8*i)))
+	}
+	return out
+}
+
+// Read is the number that at most eight bytes are, the lowest byte first.
+func Read(b []byte) uint64 {
+	n := uint64(0)
+	for i, x := range b {
+		n |= uint64(x) << (8 * i)
+	}
+	return n
 }
 
 // Word lays down a word behind what is there: how many bytes it has, these, and bytes 0 up to a multiple of eight.

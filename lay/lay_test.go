@@ -16,6 +16,30 @@ func TestNumber(t *testing.T) {
 	}
 }
 
+func TestHalf(t *testing.T) {
+	for _, n := range []uint32{0, 1, 255, 256, 0x01020304, math.MaxUint32} {
+		want := "x" + string(binary.LittleEndian.AppendUint32(nil, n))
+		if got := string(Half([]byte("x"), n)); got != want || len(got) != 1+HalfSize {
+			t.Errorf("Half(%d) = %q, want %q", n, got, want)
+		}
+	}
+}
+
+func TestRead(t *testing.T) {
+	for _, n := range []uint64{0, 1, 255, 256, 0x0102030405060708, 1 << 63, math.MaxUint64} {
+		b := binary.LittleEndian.AppendUint64(nil, n)
+		if got := Read(b); got != n {
+			t.Errorf("Read(% x) = %d, want %d", b, got, n)
+		}
+		if got := Read(b[:HalfSize]); got != n&math.MaxUint32 {
+			t.Errorf("Read(% x) = %d, want %d", b[:HalfSize], got, n&math.MaxUint32)
+		}
+	}
+	if got := Read(nil); got != 0 {
+		t.Errorf("Read of no bytes = %d", got)
+	}
+}
+
 func TestWord(t *testing.T) {
 	for n := range 300 {
 		text := strings.Repeat("t", n)
