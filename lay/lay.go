@@ -1,4 +1,4 @@
-// Package lay lays numbers and words down as bytes, in the forms that archives, groups' texts, records and messages have.
+// Package lay lays numbers, texts and words down as bytes, in the forms that archives, groups' texts, records, entries and messages have.
 package lay
 
 // NumberSize is how many bytes a number has; a word takes a multiple of it.
@@ -30,6 +30,11 @@ func Read(b []byte) uint64 {
 		n |= uint64(x) << (8 * i)
 	}
 	return n
+}
+
+// Text lays down a text behind what is there: how many bytes it has, as a number of four bytes, and these.
+func Text[T string | []byte](out []byte, text T) []byte {
+	return append(Half(out, uint32(len(text))), text...)
 }
 
 // Word lays down a word behind what is there: how many bytes it has, these, and bytes 0 up to a multiple of eight.

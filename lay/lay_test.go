@@ -40,6 +40,19 @@ func TestRead(t *testing.T) {
 	}
 }
 
+func TestText(t *testing.T) {
+	for _, n := range []int{0, 1, 255, 256, 70000} {
+		text := strings.Repeat("t", n)
+		want := "x" + string(binary.LittleEndian.AppendUint32(nil, uint32(n))) + text
+		if got := string(Text([]byte("x"), text)); got != want {
+			t.Errorf("Text of %d bytes = %.20q", n, got)
+		}
+		if got := string(Text([]byte("x"), []byte(text))); got != want {
+			t.Errorf("Text of %d bytes in a list = %.20q", n, got)
+		}
+	}
+}
+
 func TestWord(t *testing.T) {
 	for n := range 300 {
 		text := strings.Repeat("t", n)
