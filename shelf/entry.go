@@ -72,8 +72,8 @@ func (t *tables) layLabel(out []byte, l api.Label) []byte {
 func entriesOf(payloads [][]byte) iter.Seq2[int, entry] {
 	return func(yield func(int, entry) bool) {
 		for i, payload := range payloads {
-			r := reader{rest: payload}
-			for len(r.rest) > 0 {
+			r := reader{lay.NewReader(payload)}
+			for r.Left() > 0 {
 				x := r.entry()
 				if !yield(i, x) || x.kind == 0 {
 					return
@@ -83,18 +83,17 @@ func entriesOf(payloads [][]byte) iter.Seq2[int, entry] {
 	}
 }
 
-// reader takes what is laid down off the front of a payload. Once it has met what may not be, it answers zero values.
+// reader takes entries off the front of a payload.
 type reader struct {
-	rest   []byte
-	broken bool
+	lay.Reader
 }
 
 // entry takes an entry off; its kind is 0 if it can't be read.
 func (r *reader) entry() entry {
-	x := entry{kind: r.octet()}
+	x := entry{kind: r.Octet()}
 	switch x.kind {
 	case entryArk:
-		x.data = r.text()
+		x.data = r.Text()
 	case entryPut:
 		x.object = r.object()
 	case entryDrop:
@@ -102,15 +101,15 @@ func (r *reader) entry() entry {
 	case entrySame:
 		x.old, x.label = r.label(), r.label()
 	case entryMade:
-		x.key, x.label = string(r.text()), r.label()
+		x.key, x.label = string(r.Text()), r.label()
 	case entryValue:
-		x.key, x.data = string(r.text()), r.text()
+		x.key, x.data = string(r.Text()), r.Text()
 	case entryVoid:
-		x.key = string(r.text())
+		x.key = string(r.Text())
 	default:
-		r.broken = true
+		r.Break()
 	}
-	if r.broken {
+	if r.Broken() {
 		return entry{}
 	}
 	return x
@@ -118,42 +117,19 @@ func (r *reader) entry() entry {
 
 func (r *reader) object() object {
 	o := object{title: &title{label: r.label()}}
-	for n := r.number(); n > 0 && !r.broken; n-- {
+	for n := r.Half(); n > 0 && !r.Broken(); n-- {
 		o.refs = append(o.refs, r.label())
 	}
-	o.maker = string(r.text())
-	o.ca = api.Ca(r.octet())
-	o.ark = r.number()
+	o.maker = string(r.Text())
+	o.ca = api.Ca(r.Octet())
+	o.ark = r.Half()
 	return o
 }
 
 func (r *reader) label() api.Label {
-	l, e, _ := label.ParseBase(string(r.text()))
+	l, e, _ := label.ParseBase(string(r.Text()))
 	if e != api.OK {
-		r.broken = true
+		r.Break()
 	}
 	return l
-}
-
-func (r *reader) text() []byte {
-	return r.take(r.number())
-}
-
-func (r *reader) number() int {
-	return int(lay.Read(r.take(lay.HalfSize)))
-}
-
-func (r *reader) octet() byte {
-	return byte(lay.Read(r.take(1)))
-}
-
-// take takes so many bytes off.
-func (r *reader) take(n int) []byte {
-	if r.broken || n > len(r.rest) {
-		r.broken = true
-		return nil
-	}
-	out := r.rest[:n]
-	r.rest = r.rest[n:]
-	return out
 }
