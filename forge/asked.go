@@ -92,21 +92,12 @@ func read(s *shelf.Shelf, l api.Label) known {
 	if e != api.OK {
 		return known{fault: e, label: l}
 	}
-	wrong := known{fault: api.ErrRecipe, label: l}
-	n, e, _ := ark.Parse(o.Ark)
-	if e != api.OK || n.Kind != api.KindFile || n.Exec {
-		return wrong
-	}
-	r, e, _ := recipe.Read(string(n.Data))
-	name, ends := strings.CutSuffix(l.Name, suffix)
-	if e != api.OK || !ends {
-		return wrong
-	}
-	if e, _ := label.Check(name); e != api.OK {
-		return wrong
-	}
-	if called, e := recipe.Call(name, r); e != api.OK || called != l {
-		return wrong
+	n, _, _ := ark.Parse(o.Ark) // it is an archive: else the shelf would not have it
+	name := strings.TrimSuffix(l.Name, suffix)
+	r, _, _ := recipe.Read(string(n.Data))
+	// Call answers no label for what Read refuses, nor for a name that is none; and each one that it answers ends in .recipe.
+	if called, e := recipe.Call(name, r); e != api.OK || called != l || n.Kind != api.KindFile || n.Exec {
+		return known{fault: api.ErrRecipe, label: l}
 	}
 	text, _ := label.Print(l) // what Call answers is printable
 	k := known{label: l, text: text, name: name, recipe: r, mode: recipe.Mode(r)}

@@ -17,7 +17,7 @@ type bench struct {
 	roots  map[string]int // by the first name of their ways, the trees' numbers
 	trees  []*api.Node    // nil: it is not there
 	arks   func(api.Label) []byte
-	inputs map[api.Label]*api.Node // those that were asked for; nil: it has no node
+	inputs map[api.Label]*api.Node // those that were asked for
 }
 
 func benchFor(outputs []api.Output, arks func(api.Label) []byte) *bench {
@@ -99,14 +99,15 @@ func (b *bench) from(text string) *api.Node {
 
 // input is an input's tree, read once; nil if there is none.
 func (b *bench) input(l api.Label) *api.Node {
-	if n, asked := b.inputs[l]; asked {
+	if n, read := b.inputs[l]; read {
 		return n
 	}
-	b.inputs[l] = nil
-	if n, e, _ := ark.Parse(b.arks(l)); e == api.OK {
-		b.inputs[l] = &n
+	n, e, _ := ark.Parse(b.arks(l))
+	if e != api.OK {
+		return nil
 	}
-	return b.inputs[l]
+	b.inputs[l] = &n
+	return &n
 }
 
 // lay makes a node at a way, with all that is within it; false if that fails.

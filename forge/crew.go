@@ -15,7 +15,7 @@ type job struct {
 	place    int // in the plan
 	resolved api.Recipe
 	bare     api.Sum // a floating one's, without inputs: that of all recipes that are resolved alike
-	barely   bool    // there is such a sum
+	hasBare  bool    // there is such a sum
 }
 
 // product is what came of a job: objects for the shelf; or the error and the step's number.
@@ -63,11 +63,8 @@ func crew(jobs []job, workers int) []product {
 func (j job) forge() product {
 	p := product{place: j.place}
 	closure, _, _ := j.shelf.Closure(parsedAll(j.resolved.Sources)) // all of them are there
-	r := j.resolved
 	labels := j.outputLabels()
-	if j.mode == floating {
-		r = withLabels(r, labels)
-	}
+	r := withLabels(j.resolved, labels) // but for floating ones they are there already
 	trees, e, step := run(r, func(l api.Label) []byte { return arkOf(j.shelf, closure, l) })
 	if e != api.OK {
 		p.e, p.step = e, step

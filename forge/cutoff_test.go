@@ -1,6 +1,7 @@
 package forge
 
 import (
+	"fmt"
 	"slices"
 	"strings"
 	"testing"
@@ -191,6 +192,38 @@ func TestNoCutOff(t *testing.T) {
 	f, e = w.both(want(fixed), want(fixed2))
 	if e != api.OK || len(f.Ran) != 1 || f.Mades[0].Label != f.Mades[1].Label || len(w.s.Mades()) != 2 {
 		t.Errorf("P14.7: mode 1: %d, %s", e, showForging(f))
+	}
+}
+
+// Mades that were laid down by hand for recipes that have none: nothing is cut off by them.
+func TestMadesByHand(t *testing.T) {
+	x := tree("x", file("x"))
+	w := newWorld(t, x)
+	guests, fixed := w.lay("g", recipeOf(0, "out", "file out g")), w.lay("f", flat("f", "file out f"))
+	for _, l := range []api.Label{guests, fixed} {
+		w.s.Apply([]api.Step{madeOf(w.key(l, "out"), x.Label), madeOf(modulo.Key(w.bare(l), "out"), x.Label), madeOf(modulo.Key(api.Sum{}, "out"), x.Label)})
+		f, e := w.both(want(l))
+		if e != api.OK || !slices.Equal(f.Ran, []api.Label{l}) || f.Mades[0].Label != w.outLabel(l, "out") {
+			t.Errorf("P14.7: 3: %d, %s", e, showForging(f))
+		}
+	}
+}
+
+// A ladder of recipes, each of which asks for both of the two below it: each is read and done once.
+func TestLadder(t *testing.T) {
+	w := newWorld(t)
+	low := [2]api.Label{w.lay("l", float("file out l")), w.lay("r", float("file out r"))}
+	for i := range 40 {
+		next := low
+		for side := range low {
+			r := float(fmt.Sprint("file out ", i, side), "text out "+stand(low[0], "out")+stand(low[1], "out"))
+			next[side] = w.lay("lr"[side:side+1], asking(asking(r, low[0], "out"), low[1], "out"))
+		}
+		low = next
+	}
+	f, e := Make(w.s, wants(low[0], low[1]), 3)
+	if e != api.OK || len(f.Ran) != 82 {
+		t.Errorf("P14.6: %d, %d ran", e, len(f.Ran))
 	}
 }
 

@@ -79,7 +79,7 @@ func (f *forging) jobFor(place int) (job, api.Errno, api.Label) {
 	}
 	j := job{place: place, shelf: f.shelf, known: f.list[i], resolved: r}
 	if j.mode == floating {
-		j.bare, j.barely = bareSum(j.name, r)
+		j.bare, j.hasBare = bareSum(j.name, r)
 	}
 	return j, api.OK, api.Label{}
 }
@@ -93,7 +93,7 @@ func bareSum(name string, r api.Recipe) (api.Sum, bool) {
 // madeBefore is the steps that say that a recipe comes to what another one has come to that was resolved alike; false if there is
 // none.
 func (j job) madeBefore() ([]api.Step, bool) {
-	if !j.barely {
+	if !j.hasBare {
 		return nil, false
 	}
 	var steps []api.Step
@@ -125,7 +125,7 @@ func (j job) transaction(objects []api.Object) []api.Step {
 	}
 	for i, o := range j.resolved.Outputs {
 		steps = append(steps, madeStep(j.sum, o.Name, objects[i].Label))
-		if j.barely && j.bare != j.sum {
+		if j.hasBare && j.bare != j.sum {
 			steps = append(steps, madeStep(j.bare, o.Name, objects[i].Label))
 		}
 	}
@@ -145,22 +145,33 @@ func (f *forging) productOf(j job) product {
 }
 
 // jobsWith is a job whose turn it is, and some of those behind it that can be run at the same time: they need nothing that is yet
-// to be done. What is on the shelf stays as it is, so a recipe that can be resolved now is resolved likewise when its turn comes.
+// to be done.
 func (f *forging) jobsWith(j job) []job {
 	jobs := []job{j}
 	for place := j.place + 1; place < len(f.plan) && f.free(len(jobs)); place++ {
-		if _, there := f.products[place]; there || f.needs[place] >= j.place || f.allMade(f.plan[place], f.list[f.plan[place]].outputNames()) {
+		if f.needs[place] >= j.place {
 			continue
 		}
-		next, e, _ := f.jobFor(place)
-		if e != api.OK {
-			continue
-		}
-		if _, before := next.madeBefore(); !before {
+		if next, ok := f.jobAhead(place); ok {
 			jobs = append(jobs, next)
 		}
 	}
 	return jobs
+}
+
+// jobAhead is the job of a recipe ahead of its turn; false if it was run already, need not be run, or can't be run by what is
+// there now. What is on the shelf stays as it is, so one that can be resolved now is resolved likewise when its turn comes.
+func (f *forging) jobAhead(place int) (job, bool) {
+	i := f.plan[place]
+	if _, run := f.products[place]; run || f.allMade(i, f.list[i].outputNames()) {
+		return job{}, false
+	}
+	j, e, _ := f.jobFor(place)
+	if e != api.OK {
+		return job{}, false
+	}
+	_, before := j.madeBefore()
+	return j, !before
 }
 
 // free says whether a worker has nothing to do beside so many jobs, and there is room for what it makes.

@@ -320,7 +320,38 @@ func TestNoRoom(t *testing.T) {
 	}
 }
 
-// A nil shelf, and one that Open did not make.
+// W11: what is made hangs on recipes and inputs alone: not on the order of Makes, nor on what else is on the shelf.
+func TestOnRecipesAlone(t *testing.T) {
+	first, l := rich(t)
+	first.make(wants(l...)...)
+	second, _ := rich(t)
+	for _, x := range slices.Backward(l) {
+		second.make(want(x))
+	}
+	third, _ := rich(t)
+	junk := tree("junk", file("junk"))
+	third.put(junk, guest(numbered(77), file(part(junk.Label)), junk.Label))
+	for _, name := range []string{"x", "f", "junk"} {
+		third.make(want(third.lay(name, float("file out other "+name))))
+	}
+	for _, i := range []int{2, 4, 0, 6, 1, 3, 5} {
+		third.make(want(l[i]), want(l[0]))
+	}
+	for _, w := range []*world{second, third} {
+		for _, m := range mustMake(t, first, wants(l...)...) {
+			if m.Label.Name == "" || fmt.Sprint(w.get(m.Label)) != fmt.Sprint(first.get(m.Label)) {
+				t.Errorf("W11: %s is another thing", showLabel(m.Label))
+			}
+		}
+		if got, want := mustMake(t, w, wants(l...)...), mustMake(t, first, wants(l...)...); !slices.Equal(got, want) {
+			t.Errorf("W11: %v, want %v", got, want)
+		}
+	}
+	first.owned()
+	third.owned()
+}
+
+// A nil shelf.
 func TestNilShelf(t *testing.T) {
 	for _, workers := range []int{-1, 0, 1, 17} {
 		if f, e := Make(nil, wants(numbered(1)), workers); e != api.OK || showForging(f) != showForging(api.Forging{}) {

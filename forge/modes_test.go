@@ -176,7 +176,7 @@ func TestManyCandidates(t *testing.T) {
 		hashes = append(hashes, l.Hash)
 	}
 	var data []byte
-	for _, h := range hashes {
+	for _, h := range slices.Backward(hashes) { // so those of the second sieve come first
 		data = append(data, digitsOf(h)...)
 	}
 	if hits := c.hits(data); len(hits) < len(hashes) || !slices.IsSortedFunc(hits, func(a, b api.Hit) int { return a.At - b.At }) || !slices.Equal(c.mentioned(hits), c.labels) {

@@ -206,7 +206,10 @@ func TestFloatingMentions(t *testing.T) {
 	over := guest(numbered(2), file("z"), foreign.Label, own.Label)
 	zeros := api.Object{Label: api.Label{Name: "z"}, Ark: arkFor(file("z")), Ca: api.BySource} // by hand: its label is not its content's
 	ones := api.Object{Label: api.Label{Hash: api.Hash{1}, Name: "o"}, Ark: arkFor(file("o")), Ca: api.BySource}
-	w := newWorld(t, own, foreign, over, zeros, ones)
+	near := api.Object{Label: api.Label{Name: "near"}, Ark: arkFor(file("n")), Ca: api.BySource} // its digits are a 0 and 31 times a 1
+	digits, _, _ := digest.UnBase32("0" + strings.Repeat("1", 31))
+	copy(near.Label.Hash[:], digits)
+	w := newWorld(t, own, foreign, over, zeros, ones, near)
 	z := strings.Repeat("0", 32)
 	for what, r := range map[string]api.Recipe{
 		"a guest":                    from(float("file out "+part(foreign.Label)), foreign.Label),
@@ -217,7 +220,8 @@ func TestFloatingMentions(t *testing.T) {
 		"within an entry's name":     from(float("dir out", "dir out/d", "file out/d/x"+part(own.Label)+"y x"), own.Label),
 		"in a name, and in a file":   from(float("dir out", "file out/"+part(own.Label)+" "+part(own.Label)), own.Label),
 		"overlapping":                from(float("file out "+z+"1"), zeros.Label, ones.Label),
-		"overlapping by 31":          from(float("file out 0"+z), zeros.Label),
+		"overlapping by 31 digits":   from(float("file out 0"+z), zeros.Label),
+		"overlapping by a digit":     from(float("file out "+z+strings.Repeat("1", 31)), zeros.Label, near.Label),
 		"overlapping itself":         from(float("link out "+z+"0"), zeros.Label),
 		"overlapping, behind others": from(float("file out "+z+" "+z+z+"0"), zeros.Label),
 		"overlapping a guest":        from(float("file out 0"+z+part(foreign.Label)), zeros.Label, foreign.Label),
@@ -231,6 +235,7 @@ func TestFloatingMentions(t *testing.T) {
 		"in a name, a digit less":       from(float("dir out", "dir out/"+part(own.Label)[1:]), own.Label),
 		"side by side":                  from(float("file out "+part(own.Label)+part(own.Label)), own.Label),
 		"31 of them":                    from(float("file out "+z[1:]), zeros.Label),
+		"one behind the other":          from(float("file out "+z+part(near.Label)[:31]+" "+part(near.Label)), near.Label),
 		"an own one over a guest":       from(float("file out "+part(own.Label)), over.Label),
 	} {
 		l := w.lay("good", r)

@@ -518,16 +518,16 @@ func plainOwn(inputs []api.Object, labels []api.Label, trees []api.Node) ([]api.
 
 // plainNames is the outputs' own labels, by their scratch labels.
 func plainNames(labels []api.Label, trees []api.Node, refs [][]api.Label) (map[api.Label]api.Label, bool) {
-	reach := map[[2]int]bool{}
+	reach := make([][]bool, len(labels))
 	for i := range labels {
 		for k, l := range labels {
-			reach[[2]int{i, k}] = i == k || slices.Contains(refs[i], l)
+			reach[i] = append(reach[i], i == k || slices.Contains(refs[i], l))
 		}
 	}
 	for m := range labels {
 		for i := range labels {
 			for k := range labels {
-				reach[[2]int{i, k}] = reach[[2]int{i, k}] || reach[[2]int{i, m}] && reach[[2]int{m, k}]
+				reach[i][k] = reach[i][k] || reach[i][m] && reach[m][k]
 			}
 		}
 	}
@@ -537,9 +537,9 @@ func plainNames(labels []api.Label, trees []api.Node, refs [][]api.Label) (map[a
 			var group []int
 			ready := named[labels[i]] == api.Label{}
 			for k := range labels {
-				if reach[[2]int{i, k}] && reach[[2]int{k, i}] {
+				if reach[i][k] && reach[k][i] {
 					group = append(group, k)
-				} else if reach[[2]int{i, k}] && (named[labels[k]] == api.Label{}) {
+				} else if reach[i][k] && (named[labels[k]] == api.Label{}) {
 					ready = false
 				}
 			}

@@ -225,6 +225,26 @@ func mustMake(t *testing.T, w *world, asked ...api.Want) []api.Made {
 	return f.Mades
 }
 
+// Two of what stands for outputs are one text. No recipe of a shelf is so, whose Inputs are in order: this one is made by hand.
+func TestStandsClash(t *testing.T) {
+	w := newWorld(t)
+	b := w.lay("b", float("file out x"))
+	l := w.lay("a", asking(float("file out "+stand(b, "out")), b, "out"))
+	w.make(want(b))
+	a, e, _ := gather(w.s, wants(l))
+	if e != api.OK {
+		t.Fatalf("P14.3: %d", e)
+	}
+	k := &a.list[a.number[l]]
+	if _, e, at := a.resolve(a.number[l]); e != api.OK || at != (api.Label{}) {
+		t.Errorf("P14.5: %d, %s", e, showLabel(at))
+	}
+	k.recipe.Inputs, k.inputs = slices.Repeat(k.recipe.Inputs, 2), slices.Repeat(k.inputs, 2)
+	if r, e, at := a.resolve(a.number[l]); e != api.ErrClash || at != l || toldRecipe(r, 0, at) != toldRecipe(api.Recipe{}, 0, at) {
+		t.Errorf("P14.5: %d, %s", e, showLabel(at))
+	}
+}
+
 // Sources that are there twice: as a source and as an input's output, or as those of two inputs.
 func TestResolvedSources(t *testing.T) {
 	w := newWorld(t)
@@ -281,26 +301,63 @@ func TestManySources(t *testing.T) {
 	b := w.lay("b", recipeOf(2, "doc out", "file out x", "file doc y"))
 	r := from(asking(float("file out "+part(labels[0])+" ${out}", "text out "+stand(b, "out")), b, "doc out"), labels...)
 	l := w.lay("a", r)
+	// A made that was laid down by hand has no part in it.
+	w.s.Apply([]api.Step{madeOf(modulo.Key(api.Sum{}, "out"), labels[0])})
 	made := w.make(want(b), want(l))
 	got, e, _ := w.resolved("P14.5", l)
 	if e != api.OK || len(got.Sources) != api.MaxRefs+1 {
 		t.Fatalf("P14.5: %d, %d sources", e, len(got.Sources))
 	}
-	if _, barely := bareSum("a", got); barely {
+	if _, hasBare := bareSum("a", got); hasBare {
 		t.Error("P14.7: it has a sum")
 	}
 	o := w.get(made[2])
 	if o.Ca != api.ByGroup || len(o.Refs) != 3 || !strings.Contains(w.bytes(made[2]), part(made[2])) || strings.Contains(w.bytes(made[2]), digitsOf(modulo.Scratch(w.sum(l), "out"))) {
 		t.Errorf("P14.7: %s", showLabels(o.Refs))
 	}
-	if n := len(w.s.Mades()); n != 3 {
+	if n := len(w.s.Mades()); n != 4 {
 		t.Errorf("P14.7: %d mades", n)
 	}
+	// What its scratch label is shows in a sum.
+	l2 := w.lay("a", from(asking(float("file tmp ${out} is me", "sum out tmp"), b, "doc out"), labels...))
 	b2 := bothOn(t, w.v.Disk(), 1<<24)
-	l2 := w.lay("a", from(asking(float("file out ${out} is me"), b, "doc out"), labels...))
-	b2 = bothOn(t, w.v.Disk(), 1<<24)
 	if told := b2.make(wants(l2), 4); !strings.HasPrefix(told, "0") {
 		t.Errorf("P14.7: %s", told)
+	}
+}
+
+// Only the closure of its sources is given to a recipe: not what else is on the shelf, and not what asks for it.
+func TestInputsOfTheShelf(t *testing.T) {
+	low := tree("low", file("low"))
+	high := guest(numbered(1), file("high"), low.Label)
+	beside := tree("beside", file("beside"))
+	w := newWorld(t, low, high, beside)
+	for _, c := range []struct {
+		at    api.Label
+		given []api.Label
+		ok    bool
+	}{
+		{high.Label, []api.Label{high.Label}, true}, {low.Label, []api.Label{high.Label}, true}, {low.Label, []api.Label{low.Label}, true},
+		{high.Label, []api.Label{low.Label}, false}, {beside.Label, []api.Label{high.Label}, false}, {low.Label, nil, false}, {beside.Label, nil, false}, {numbered(9), []api.Label{high.Label}, false},
+	} {
+		for mode := 0; mode <= 2; mode += 2 {
+			l := w.lay("r", from(recipeOf(mode, "out", "copy out "+textOf(c.at)), c.given...))
+			if c.ok {
+				if got := w.comes(l); showTree(w.tree(got[0].Label)) != showTree(w.tree(c.at)) {
+					t.Errorf("P14.7: 4: %s", showTree(w.tree(got[0].Label)))
+				}
+			} else {
+				w.refuse("P14.7: 4: not among the inputs", api.ErrStep, l, 0, nil, want(l))
+			}
+		}
+	}
+	// What an input's output leads to is among them, what the input's recipe has is not.
+	b := w.lay("b", from(recipeOf(0, "doc out", "file out "+part(low.Label), "file doc "+part(high.Label)), low.Label, high.Label))
+	for from, ok := range map[string]bool{stand(b, "out"): true, textOf(low.Label): true, textOf(high.Label): false, textOf(b): false} {
+		l := w.lay("r", asking(float("need "+from, "file out x"), b, "out"))
+		if f, e := w.both(want(l)); (e == api.OK) != ok {
+			t.Errorf("P14.7: 4: %s: %d, %s", from, e, showForging(f))
+		}
 	}
 }
 

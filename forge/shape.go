@@ -27,7 +27,7 @@ func (j job) outputLabels() []api.Label {
 
 // scratchSum is what scratch labels are made of: alike for all recipes that are resolved alike, where that can be said.
 func (j job) scratchSum() api.Sum {
-	if j.barely {
+	if j.hasBare {
 		return j.bare
 	}
 	return j.sum
@@ -63,7 +63,7 @@ func (j job) shape(trees []api.Node, closure, labels []api.Label) ([]api.Object,
 	case byInputs:
 		return j.guests(c, labels, arks, hits)
 	case fixed:
-		return j.fixedOnes(labels, trees, arks, hits)
+		return j.fixedOne(labels, trees, arks, hits)
 	}
 	w := own{shelf: j.shelf, closure: closure, cast: c, scratch: labels, trees: trees, arks: arks, hits: hits}
 	return w.objects()
@@ -82,8 +82,8 @@ func (j job) guests(c cast, labels []api.Label, arks [][]byte, hits [][]api.Hit)
 	return out, true
 }
 
-// fixedOnes is the one object whose sum was known ahead.
-func (j job) fixedOnes(labels []api.Label, trees []api.Node, arks [][]byte, hits [][]api.Hit) ([]api.Object, bool) {
+// fixedOne is the one object whose sum was known ahead.
+func (j job) fixedOne(labels []api.Label, trees []api.Node, arks [][]byte, hits [][]api.Hit) ([]api.Object, bool) {
 	o := j.resolved.Outputs[0]
 	made := api.Object{Label: labels[0], Ark: arks[0], Ca: api.BySource}
 	data := arks[0]

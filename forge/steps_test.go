@@ -99,8 +99,8 @@ func TestForms(t *testing.T) {
 			head := verb + strings.Repeat(" w", n)
 			checks(t, head, false)
 			checks(t, head+" ", false)
-			checks(t, head+"  "+strings.Repeat(" w", words-n-1)+" r", false)      // an empty word
-			checks(t, head+"  w"+strings.Repeat(" w", words-n-1), false)          // a blank too many ahead of a word
+			checks(t, head+"  "+strings.Repeat(" w", words-n-1)+" r", false)     // an empty word
+			checks(t, head+"  w"+strings.Repeat(" w", words-n-1), false)         // a blank too many ahead of a word
 			checks(t, head+" \xff\x01\t"+strings.Repeat(" w", words-n-1), !rest) // any bytes but blanks
 		}
 	}
@@ -330,6 +330,11 @@ func TestInputs(t *testing.T) {
 			r := given(plainly("dir out", "file out/f 1", strings.Replace(step, "F", "${way}", 1)), "way", from)
 			runsTo(t, r, inputs, api.ErrStep, 2)
 		}
+	}
+	// An input without a name is found by no text: not by one that is no way either.
+	nameless := append(slices.Clone(inputs), guest(api.Label{}, file("nameless")), guest(api.Label{Hash: c.Hash}, file("nameless")))
+	for _, from := range []string{"/", "/x", "/graft/store/" + strings.Repeat("0", 32) + "-", "/graft/store/" + strings.Repeat("0", 32), "/graft/store/" + part(c) + "-", at(c, "/")} {
+		runsTo(t, plainly("need "+from), nameless, api.ErrStep, 0)
 	}
 	for _, step := range []string{"add out/f " + at(c, ""), "add out/f " + at(c, "/l"), "move out/m " + at(c, "/f"), "move out/m " + at(a, ""), "drop " + at(a, ""), "text " + at(a, "") + " x", "exec " + at(c, "/f"), "file " + at(c, "/new") + " x"} {
 		runsTo(t, plainly("dir out", "file out/f 1", step), inputs, api.ErrStep, 2)

@@ -213,7 +213,7 @@ func (c *chance) wants() []api.Want {
 func TestWorlds(t *testing.T) {
 	source := sourceOf(3)
 	seen := map[string]int{}
-	for i := range 400 {
+	for i := range 300 {
 		c := chanceBy(t, source, i%3)
 		if len(c.recipes) == 0 {
 			continue
@@ -244,10 +244,9 @@ func TestWorlds(t *testing.T) {
 			t.Errorf("no Make answers %d", e)
 		}
 	}
-	if seen["0"] < 200 || seen["ran"] < 200 {
+	if seen["0"] < 100 || seen["ran"] < 100 {
 		t.Errorf("only %d go well, %d run", seen["0"], seen["ran"])
 	}
-	t.Log(seen)
 }
 
 // digits is a text of base 32 by chance.
