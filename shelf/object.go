@@ -5,6 +5,7 @@ import (
 	"sync"
 
 	"graft/api"
+	"graft/fit"
 	"graft/label"
 )
 
@@ -37,7 +38,7 @@ func objectOf(o api.Object, ark int) object {
 
 // right says whether an object may come onto a shelf that has its ark.
 func (o object) right() bool {
-	return isPrintable(o.label) && areRefs(o.refs) && isMaker(o.maker) && o.ca <= api.ByFlat
+	return fit.Label(o.label) && fit.Refs(o.refs) && fit.Maker(o.maker) && o.ca <= api.ByFlat
 }
 
 // equals says whether another object of this label is the same.
@@ -49,30 +50,4 @@ func (o object) equals(x object) bool {
 func (o object) refersTo(l api.Label) bool {
 	_, found := slices.BinarySearchFunc(o.refs, l, label.Compare)
 	return found
-}
-
-func isPrintable(l api.Label) bool {
-	e, _ := label.Check(l.Name)
-	return e == api.OK
-}
-
-// areRefs says whether labels may be an object's references.
-func areRefs(l []api.Label) bool {
-	if len(l) > api.MaxRefs {
-		return false
-	}
-	for i, ref := range l {
-		if !isPrintable(ref) || i > 0 && label.Compare(l[i-1], ref) >= 0 {
-			return false
-		}
-	}
-	return true
-}
-
-func isMaker(text string) bool {
-	if text == "" {
-		return true
-	}
-	_, e, _ := label.Parse(text)
-	return e == api.OK
 }

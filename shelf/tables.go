@@ -6,6 +6,7 @@ import (
 
 	"graft/api"
 	"graft/ark"
+	"graft/fit"
 )
 
 // tables is all that a shelf knows.
@@ -168,7 +169,7 @@ func (t *tables) leave(number int) {
 }
 
 func (t *tables) doSame(old, to api.Label) (bool, api.Errno) {
-	if !isPrintable(old) {
+	if !fit.Label(old) {
 		return false, api.ErrArg
 	}
 	return lead(t, t.sames, old, to, api.MaxSames)
