@@ -31,7 +31,7 @@ func (w *renaming) onShelf(i int) api.Outcome {
 		return api.Outcome{}
 	}
 	o, _ := w.shelf.Get(l)
-	if l == x.name && o.Ca == api.ByGroup && bytes.Equal(o.Ark, w.archive(i).renamed) && slices.Equal(o.Refs, x.newRefs) {
+	if l == x.name && o.Ca == api.ByGroup && bytes.Equal(o.Ark, w.archiveOf(i).data) && slices.Equal(o.Refs, x.newRefs) {
 		return api.Outcome{}
 	}
 	v := verifier{w.shelf, w.chunk}
@@ -58,7 +58,7 @@ func (w *renaming) otherName(i, k int) api.Outcome {
 
 // otherContent tells of a guest that gets the same label, and holds another thing.
 func (w *renaming) otherContent(i, k int) api.Outcome {
-	if bytes.Equal(w.archive(i).renamed, w.archive(k).renamed) && slices.Equal(w.objects[i].newRefs, w.objects[k].newRefs) {
+	if bytes.Equal(w.archiveOf(i).data, w.archiveOf(k).data) && slices.Equal(w.objects[i].newRefs, w.objects[k].newRefs) {
 		return api.Outcome{}
 	}
 	return w.clash(i, w.labels[k], w.proofOf(k))

@@ -172,12 +172,25 @@ func TestClashAmongGuests(t *testing.T) {
 		r.objects[r.by(a3)].refs = []int{r.by(lb)}
 		r.objects[r.by(a3)].finger.Name = "x"
 	})
+	holds("another archive, of a later guest", api.Outcome{At: lb, Other: a2, First: finger("b", "2"), Second: finger("a", "4")}, func(r *renaming) {
+		call(r, a2, lb, "b")
+	})
+	// What is on the shelf counts ahead of what comes.
+	text := ownText("t", "on the shelf")
+	w.lay(text)
+	holds("on the shelf", api.Outcome{At: lb, Other: text.Label, First: finger("b", "2"), Second: []byte(label2(plain{w.e.Shelf()}.content(text.Label)))}, func(r *renaming) {
+		r.objects[r.by(lb)].call(api.Label{Hash: text.Label.Hash, Name: "b"})
+		call(r, lc, lb, "c")
+		call(r, a2, lb, "b")
+	})
 	// The first guest in order, though another one's ground is an earlier one.
 	holds("the first", api.Outcome{At: la, Other: a2, First: finger("a", "1"), Second: finger("a", "4")}, func(r *renaming) {
 		call(r, a2, la, "a")
 		call(r, lc, lb, "c")
 	})
 }
+
+func label2(finger string, _ []byte) string { return finger }
 
 // P15.5, 8: an own object of the shelf that is what it says has the hash part: both texts are told.
 func TestClashProved(t *testing.T) {

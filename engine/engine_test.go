@@ -105,6 +105,7 @@ func TestLookup(t *testing.T) {
 	if l, e := w.e.Lookup(lc); l != text || e != api.OK {
 		t.Errorf("P15.6: %s, %d", showLabel(l), e)
 	}
+	w.refuses("P15.5, 10: of guests alone", func() api.Outcome { return w.e.Rewrite([]api.Label{text}, 2) }, api.Outcome{Map: []api.Same{{Old: text, New: text}}})
 }
 
 // P15.6: Read is shelf.Get.

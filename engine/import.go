@@ -80,9 +80,6 @@ func (in *arrival) put() api.Outcome {
 		return api.Outcome{}
 	}
 	f, at := in.shelf.Apply(steps)
-	if f == api.OK {
-		return api.Outcome{}
-	}
 	out := api.Outcome{Err: f, Place: at}
 	if at < len(in.objects) {
 		out.At = in.objects[at].Label

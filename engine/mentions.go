@@ -14,18 +14,16 @@ import (
 // archive is one of a closure's, however many objects have it: what it mentions hangs on its bytes alone, and so does what becomes
 // of it. No place of a mention is 0, as an archive begins with a word of its own: so 0 says that there is none.
 type archive struct {
-	data   []byte
+	data   []byte    // as it is on the shelf; new hash parts are written into it as names are given
 	hits   []api.Hit // all mentions, by place; Which is the object's number. None, if two of them overlap.
 	firsts []api.Hit // of each object that is mentioned, by its number, the first mention
 	inName int       // the place of the first mention within an entry's name
 	cross  int       // the place of the first mention that overlaps the one ahead of it
-
-	renamed []byte // with the new hash parts at all mentions
-	stray   int    // the place of the first hash part in that, old or new, where there is no mention
+	stray  int       // the place of the first hash part in the new archive, an old one or a new one, where there is no mention
 }
 
-// archiveOf looks for mentions, once and for all.
-func archiveOf(data []byte, finder *sieve.Sieve, chunk int) archive {
+// newArchive looks for mentions, once and for all.
+func newArchive(data []byte, finder *sieve.Sieve, chunk int) archive {
 	hits := scan(finder, data, chunk)
 	a := archive{data: data, hits: hits, firsts: firstsOf(hits, finder.Len()), inName: firstInName(data, hits)}
 	if i := sieve.Overlap(hits, api.Digits); i > 0 {

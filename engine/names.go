@@ -10,14 +10,15 @@ import (
 	"graft/sieve"
 )
 
-// findGroups finds which guests make groups. Own objects lead to no guest, so they stand alone and have no part in it.
+// findGroups finds which guests make groups. Own objects lead to no guest, so that they stand alone here changes none.
 func (w *renaming) findGroups() {
 	g := api.Graph{N: len(w.objects)}
 	for i, x := range w.objects {
+		if !x.guest {
+			continue
+		}
 		for _, to := range x.refs {
-			if x.guest && w.objects[to].guest {
-				g.Edges = append(g.Edges, [2]int{i, to})
-			}
+			g.Edges = append(g.Edges, [2]int{i, to})
 		}
 	}
 	w.groups, _ = graph.Groups(g) // a closure has neither too many objects nor too many references
@@ -61,7 +62,7 @@ func (w *renaming) nameAll() {
 	w.follow()
 }
 
-// follow lays down what follows from the new labels: the new references and archives, and which guests get one hash part.
+// follow lays down what follows from the new labels: new references and archives, and which guests get one hash part.
 func (w *renaming) follow() {
 	w.shares = map[api.Hash][]int{}
 	for i := range w.objects {
@@ -71,13 +72,23 @@ func (w *renaming) follow() {
 			w.shares[x.name.Hash] = append(w.shares[x.name.Hash], i)
 		}
 	}
-	for n := range w.archives {
-		w.archives[n].renamed = w.renamed(w.archives[n])
+	for _, a := range w.archives {
+		w.refresh(a)
+	}
+}
+
+// refresh writes into an archive, at each mention, the hash part that is that object's by now.
+func (w *renaming) refresh(a archive) {
+	for _, h := range a.hits {
+		copy(a.data[h.At:], w.objects[h.Which].part)
 	}
 }
 
 // nameGroup names a group of guests, those that it refers to having been named.
 func (w *renaming) nameGroup(group []int) {
+	for _, i := range group {
+		w.refresh(w.archiveOf(i))
+	}
 	members := w.members(group)
 	n, _, _ := modulo.Group(members) // of the defects that were looked for none is left that it would refuse
 	for m, i := range group {
@@ -92,7 +103,7 @@ func (x *object) call(l api.Label) {
 	x.name, x.part = l, partOf(l)
 }
 
-// members is a group as it is named: its archives have the new hash parts of what they mention outside of it.
+// members is a group as it is named.
 func (w *renaming) members(group []int) []api.Member {
 	out := make([]api.Member, len(group))
 	for m, i := range group {
@@ -101,14 +112,13 @@ func (w *renaming) members(group []int) []api.Member {
 	return out
 }
 
+// member is an object of a group as it is named: the mentions of members are told, all others stand in its archive.
 func (w *renaming) member(i int, group []int) api.Member {
-	a := w.archive(i)
-	m := api.Member{Name: w.labels[i].Name, Ark: slices.Clone(a.data)}
+	a := w.archiveOf(i)
+	m := api.Member{Name: w.labels[i].Name, Ark: a.data}
 	for _, h := range a.hits {
 		if which, in := slices.BinarySearch(group, h.Which); in {
 			m.Hits = append(m.Hits, api.Hit{At: h.At, Which: which})
-		} else {
-			copy(m.Ark[h.At:], w.objects[h.Which].part)
 		}
 	}
 	m.Refs = w.newNames(slices.DeleteFunc(slices.Clone(w.objects[i].refs), func(to int) bool {
@@ -125,15 +135,6 @@ func (w *renaming) newNames(numbers []int) []api.Label {
 		out[k] = w.objects[i].name
 	}
 	return label.Sort(out)
-}
-
-// renamed is an archive with the new hash parts at all mentions.
-func (w *renaming) renamed(a archive) []byte {
-	out := slices.Clone(a.data)
-	for _, h := range a.hits {
-		copy(out[h.At:], w.objects[h.Which].part)
-	}
-	return out
 }
 
 // fingerOf is what the label of a group's member is made of; the sum is the group's.
@@ -160,7 +161,7 @@ func (w *renaming) findStrays() {
 }
 
 func (a *archive) findStray(finder *sieve.Sieve, chunk int) {
-	for _, h := range scan(finder, a.renamed, chunk) {
+	for _, h := range scan(finder, a.data, chunk) {
 		if i := hitFrom(a.hits, h.At); i == len(a.hits) || a.hits[i].At != h.At {
 			a.stray = h.At
 			return

@@ -68,6 +68,9 @@ var plans = []string{
 	"a:b,b,b b:c,c c:hi,hi",
 	"a:b,c,d,e,f,g b:x c:x d:x e:x f:x g:y x:1 y:2",
 	"a:b b:c c:d d:e e:f f:g g:a",
+	"a1:b b:a1 a2:b",
+	"a1:b,a1 b:a1 c:b,a1 d:c,b,a1 e:b,a1",
+	"a1:b,c b:a1 c:d d:c a2:b,c e:b,c",
 }
 
 // Rings, chains, chains of rings, guests that are renamed to one, references that become fewer: held against the plain reading.
@@ -241,6 +244,22 @@ func TestGreatestGroup(t *testing.T) {
 	// 65 own objects are no group of guests.
 	if out := w.e.Rewrite(labelsIn(chain), 9); out.Err != api.OK {
 		t.Errorf("P15.5: %s", show(out))
+	}
+}
+
+// Groups of own objects are not asked for: by hand there may be great ones, and twins.
+func TestOwnGroups(t *testing.T) {
+	for _, ring := range [][]api.Object{side('3').ring(65, func(i int) string { return fmt.Sprint("n", i) }), side('3').ring(4, func(i int) string { return "same" })} {
+		for i := range ring {
+			ring[i].Ca = api.ByGroup
+		}
+		b := bothOn(t, api.Disk{}, wide)
+		b.lay(ring...)
+		b.take([]api.Object{holding(la, part(ring[0].Label), ring[0].Label)}, 3)
+		out := b.alike("P15.5", b.e.Rewrite([]api.Label{la}, 100), b.plain.rewrite([]api.Label{la}, 100))
+		if out.Err != api.OK || len(out.Map) != len(ring)+1 || out.Map[1].Old != out.Map[1].New {
+			t.Errorf("P15.5: %s", show(out))
+		}
 	}
 }
 

@@ -101,7 +101,7 @@ func (w *renaming) read() {
 		if !there {
 			number = len(w.archives)
 			arks[string(o.Ark)] = number
-			w.archives = append(w.archives, archiveOf(o.Ark, finder, w.chunk))
+			w.archives = append(w.archives, newArchive(o.Ark, finder, w.chunk))
 		}
 		x := object{guest: o.Ca == api.Guest, ark: number}
 		x.call(l)
@@ -112,14 +112,14 @@ func (w *renaming) read() {
 	}
 }
 
-// archive is that of an object.
-func (w *renaming) archive(i int) *archive {
-	return &w.archives[w.objects[i].ark]
+// archiveOf is the archive of an object.
+func (w *renaming) archiveOf(i int) archive {
+	return w.archives[w.objects[i].ark]
 }
 
 // mismatched tells of a label that an object mentions or refers to, but not both.
 func (w *renaming) mismatched(i int) api.Outcome {
-	refs, firsts := w.objects[i].refs, w.archive(i).firsts
+	refs, firsts := w.objects[i].refs, w.archiveOf(i).firsts
 	for len(refs) > 0 && len(firsts) > 0 && refs[0] == firsts[0].Which {
 		refs, firsts = refs[1:], firsts[1:]
 	}
@@ -137,17 +137,17 @@ func (w *renaming) mismatched(i int) api.Outcome {
 
 // inName tells of a mention within an entry's name.
 func (w *renaming) inName(i int) api.Outcome {
-	return w.placed(api.ErrInName, i, w.archive(i).inName)
+	return w.placed(api.ErrInName, i, w.archiveOf(i).inName)
 }
 
 // crossing tells of two mentions that overlap.
 func (w *renaming) crossing(i int) api.Outcome {
-	return w.placed(api.ErrCross, i, w.archive(i).cross)
+	return w.placed(api.ErrCross, i, w.archiveOf(i).cross)
 }
 
 // stray tells of a hash part in a new archive where there is no mention.
 func (w *renaming) stray(i int) api.Outcome {
-	return w.placed(api.ErrStray, i, w.archive(i).stray)
+	return w.placed(api.ErrStray, i, w.archiveOf(i).stray)
 }
 
 // placed is an object's defect at a place; none, if the place is 0.
@@ -191,7 +191,7 @@ func (w *renaming) puts() []api.Step {
 	for _, guests := range w.shares {
 		x := w.objects[guests[0]]
 		if !w.shelf.Has(x.name) {
-			o := api.Object{Label: x.name, Refs: x.newRefs, Ark: w.archives[x.ark].renamed, Ca: api.ByGroup}
+			o := api.Object{Label: x.name, Refs: x.newRefs, Ark: w.archives[x.ark].data, Ca: api.ByGroup}
 			steps = append(steps, api.Step{Kind: api.StepPut, Object: o})
 		}
 	}

@@ -100,6 +100,10 @@ func TestVerifyText(t *testing.T) {
 	b.wrong("a guest", laidIn(b, ownText("g", "x", second)), second)
 	b.wrong("two guests among others", laidIn(b, ownText("g", "x", second, one.Label, first, two.Label)), first)
 	b.wrong("a guest behind others", laidIn(b, ownText("g2", "x", second, one.Label, two.Label)), second)
+	last := named(255, "last")
+	b.lay(holding(last, "l"))
+	b.wrong("a guest behind own ones", laidIn(b, ownText("g3", "x", one.Label, two.Label, last)), last)
+	b.wrong("the first of two behind own ones", laidIn(b, ownText("g4", "x", one.Label, two.Label, last, laidIn(b, holding(named(254, "k"), "k")))), named(254, "k"))
 	b.wrong("a guest, and other bytes", laidIn(b, api.Object{Label: ownText("gb", "x", second).Label, Ark: file("y"), Refs: []api.Label{second}, Ca: api.ByText}), api.Label{})
 }
 
