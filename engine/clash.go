@@ -35,7 +35,7 @@ func (w *renaming) onShelf(i int) api.Outcome {
 		return api.Outcome{}
 	}
 	v := verifier{w.shelf, w.chunk}
-	its := proof{}
+	var its proof
 	if o.Ca != api.Guest && v.verdict(o).Err == api.OK {
 		its, _ = v.prove(o)
 	}
@@ -85,12 +85,19 @@ type proof struct {
 // against is two texts that have one sum folded: the fingers', or the groups' if these are the same. Where there is no other proof
 // the second is none.
 func (p proof) against(other proof) ([]byte, []byte) {
-	first, _ := label.Say(p.finger)
-	second, _ := label.Say(other.finger) // "" of no proof
-	if first != second {
-		return []byte(first), []byte(second)
+	first, second := p.fingerText(), other.fingerText()
+	if !bytes.Equal(first, second) {
+		return first, second
 	}
 	return p.groupText(), other.groupText()
+}
+
+func (p proof) fingerText() []byte {
+	text, f := label.Say(p.finger)
+	if f != api.OK {
+		return nil
+	}
+	return []byte(text)
 }
 
 func (p proof) groupText() []byte {

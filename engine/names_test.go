@@ -160,6 +160,58 @@ func TestContentAlone(t *testing.T) {
 	}
 }
 
+// W4 of closures by chance: each guest gets another hash part, which is carried over at its mentions.
+func TestContentAloneBy(t *testing.T) {
+	source := sourceOf(6)
+	well := 0
+	for range 400 {
+		c := &chance{source: source, labels: labelsBy(source, 1+source.IntN(8))}
+		own := ownText("own", "own")
+		c.owns = []api.Label{own.Label}
+		objects := c.guests()
+		one, other := newWorld(t), newWorld(t)
+		one.lay(own)
+		other.lay(own)
+		to := map[api.Label]api.Label{own.Label: own.Label}
+		for _, l := range c.labels {
+			to[l] = numbered(source.Int(), l.Name)
+		}
+		var carried []api.Object
+		for _, o := range objects {
+			x := api.Object{Label: to[o.Label], Ark: bytes.Clone(o.Ark)}
+			for _, m := range plainMentions(o.Ark, slices.Concat(c.labels, c.owns)) {
+				copy(x.Ark[m.at:], part(to[m.of]))
+			}
+			for _, ref := range o.Refs {
+				x.Refs = append(x.Refs, to[ref])
+			}
+			x.Refs = label.Sort(x.Refs)
+			carried = append(carried, x)
+		}
+		one.take(objects...)
+		source.Shuffle(len(carried), func(i, k int) { carried[i], carried[k] = carried[k], carried[i] })
+		if other.e.Import(carried, 9).Err != api.OK {
+			continue // a name, or two mentions that overlap, were written over
+		}
+		for _, l := range c.labels {
+			a, b := one.e.Rewrite([]api.Label{l}, 7), other.e.Rewrite([]api.Label{to[l]}, 32)
+			if a.Err != api.OK || b.Err != api.OK {
+				continue
+			}
+			well++
+			r, q := tableOf(a.Map), tableOf(b.Map)
+			for old, to := range to {
+				if r[old] != q[to] {
+					t.Fatalf("W4: %s is %s, and %s elsewhere", showLabel(old), showLabel(r[old]), showLabel(q[to]))
+				}
+			}
+		}
+	}
+	if well < 300 {
+		t.Errorf("only %d go well", well)
+	}
+}
+
 // Unlike content gets unlike labels: each of these differs from all others in one thing.
 func TestUnlikeContent(t *testing.T) {
 	own, other := ownText("o", "own"), ownText("p", "own")

@@ -212,9 +212,9 @@ func (w *renaming) sames() []api.Step {
 
 // table is what each object is called now.
 func (w *renaming) table() []api.Same {
-	out := make([]api.Same, len(w.objects))
+	var out []api.Same
 	for i, x := range w.objects {
-		out[i] = api.Same{Old: w.labels[i], New: x.name}
+		out = append(out, api.Same{Old: w.labels[i], New: x.name})
 	}
 	return out
 }
