@@ -173,6 +173,10 @@ func TestAddThere(t *testing.T) {
 	w.lay(api.Object{Label: l, Ark: file("other"), Ca: api.ByText}, api.Object{Label: tree, Ark: arkOf(dir()), Ca: api.ByGroup})
 	w.refuses("P15.3: other content", w.adding("t", "text"), api.Outcome{Err: api.ErrThere, At: l, Other: l})
 	w.refuses("P15.4: another kind", w.planting("d", dir()), api.Outcome{Err: api.ErrThere, At: tree, Other: tree})
+	// One with a maker is another one.
+	w = newWorld(t)
+	w.lay(api.Object{Label: l, Ark: file("text"), Ca: api.ByText, Maker: textOf(la)})
+	w.refuses("P15.3: with a maker", w.adding("t", "text"), api.Outcome{Err: api.ErrThere, At: l, Other: l})
 	// A full shelf.
 	w = newWorld(t, guests(many(api.MaxObjects-1))...)
 	own := w.text("own", "own")
