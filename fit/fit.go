@@ -1,8 +1,9 @@
-// Package fit says what may be a part of an object on a shelf.
+// Package fit says what may be an object on a shelf, part by part.
 package fit
 
 import (
 	"graft/api"
+	"graft/ark"
 	"graft/label"
 )
 
@@ -31,5 +32,19 @@ func Maker(text string) bool {
 		return true
 	}
 	_, e, _ := label.Parse(text)
+	return e == api.OK
+}
+
+// Ca says whether it is one of the ways in which a label comes from content.
+func Ca(c api.Ca) bool {
+	return c <= api.ByFlat
+}
+
+// Object says whether an object may be on a shelf by itself.
+func Object(o api.Object) bool {
+	if !Label(o.Label) || !Refs(o.Refs) || !Maker(o.Maker) || !Ca(o.Ca) {
+		return false
+	}
+	_, e, _ := ark.Parse(o.Ark)
 	return e == api.OK
 }

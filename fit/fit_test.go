@@ -7,6 +7,7 @@ import (
 	"testing"
 
 	"graft/api"
+	"graft/ark"
 	"graft/digest"
 	"graft/label"
 )
@@ -55,6 +56,37 @@ func TestMaker(t *testing.T) {
 	for maker, want := range map[string]bool{"": true, text: true, " ": false, "m": false, text[:len(text)-1]: false, text + "/x": false, strings.TrimPrefix(text, api.Store): false} {
 		if got := Maker(maker); got != want {
 			t.Errorf("Maker of %q = %v", maker, got)
+		}
+	}
+}
+
+func TestCa(t *testing.T) {
+	for c := range 256 {
+		if got := Ca(api.Ca(c)); got != (c < 5) {
+			t.Errorf("Ca of %d = %v", c, got)
+		}
+	}
+}
+
+// Each part of an object makes that it may not be; and each that may be is let be.
+func TestObject(t *testing.T) {
+	file, _ := ark.Print(api.Node{Kind: api.KindFile})
+	text, _ := label.Print(numbered(1, "m"))
+	right := func() api.Object {
+		return api.Object{Label: numbered(1, "a"), Refs: many(2), Ark: file, Maker: text, Ca: api.ByFlat}
+	}
+	for what, x := range map[string]struct {
+		change func(o *api.Object)
+		want   bool
+	}{
+		"as it is": {func(o *api.Object) {}, true}, "no references, no maker": {func(o *api.Object) { o.Refs, o.Maker, o.Ca = nil, "", 0 }, true},
+		"a label": {func(o *api.Object) { o.Label.Name = "" }, false}, "references": {func(o *api.Object) { o.Refs = many(257) }, false}, "a maker": {func(o *api.Object) { o.Maker = "m" }, false},
+		"a Ca": {func(o *api.Object) { o.Ca = 5 }, false}, "an archive cut short": {func(o *api.Object) { o.Ark = file[:len(file)-1] }, false}, "no archive": {func(o *api.Object) { o.Ark = nil }, false},
+	} {
+		o := right()
+		x.change(&o)
+		if got := Object(o); got != x.want {
+			t.Errorf("Object, %s: %v", what, got)
 		}
 	}
 }

@@ -38,7 +38,7 @@ func Text[T string | []byte](out []byte, text T) []byte {
 }
 
 // Word lays down a word behind what is there: how many bytes it has, these, and bytes 0 up to a multiple of eight.
-func Word(out, text []byte) []byte {
+func Word[T string | []byte](out []byte, text T) []byte {
 	out = append(Number(out, len(text)), text...)
 	for range WordSize(len(text)) - NumberSize - len(text) {
 		out = append(out, 0)

@@ -61,6 +61,9 @@ func TestWord(t *testing.T) {
 		if got := string(Word([]byte("x"), []byte(text))); got != want {
 			t.Errorf("Word of %d bytes = %q, want %q", n, got, want)
 		}
+		if got := string(Word([]byte("x"), text)); got != want {
+			t.Errorf("Word of a text of %d bytes = %q, want %q", n, got, want)
+		}
 		if WordSize(n) != len(want)-1 {
 			t.Errorf("WordSize(%d) = %d, want %d", n, WordSize(n), len(want)-1)
 		}

@@ -37,14 +37,33 @@ func (r *Reader) Half() int {
 	return int(Read(r.take(HalfSize)))
 }
 
+// Number takes a number off.
+func (r *Reader) Number() int {
+	return int(Read(r.take(NumberSize)))
+}
+
 // Text takes a text off.
 func (r *Reader) Text() []byte {
 	return r.take(r.Half())
 }
 
-// take takes so many bytes off.
+// Word takes a word off.
+func (r *Reader) Word() []byte {
+	text := r.take(r.Number())
+	for _, x := range r.take(WordSize(len(text)) - NumberSize - len(text)) {
+		if x != 0 {
+			r.Break()
+		}
+	}
+	if r.broken {
+		return nil
+	}
+	return text
+}
+
+// take takes so many bytes off; a number that was laid down may be below 0.
 func (r *Reader) take(n int) []byte {
-	if n > len(r.rest) {
+	if n < 0 || n > len(r.rest) {
 		r.Break()
 		return nil
 	}

@@ -2,6 +2,8 @@ package lay
 
 import (
 	"math"
+	"slices"
+	"strings"
 	"testing"
 )
 
@@ -29,6 +31,38 @@ func TestReader(t *testing.T) {
 	}
 }
 
+// Numbers of eight bytes and words too, and a word's padding with it.
+func TestReaderWords(t *testing.T) {
+	for n := range 20 {
+		text := strings.Repeat("t", n)
+		r := NewReader(Number(Word(Number(nil, -1), text), math.MaxInt))
+		if x := r.Number(); x != -1 {
+			t.Errorf("Number = %d", x)
+		}
+		if x := string(r.Word()); x != text || r.Left() != NumberSize {
+			t.Errorf("Word = %q, %d left", x, r.Left())
+		}
+		if x := r.Number(); x != math.MaxInt || r.Left() != 0 || r.Broken() {
+			t.Errorf("Number = %d, %d left, %v", x, r.Left(), r.Broken())
+		}
+	}
+}
+
+// A word whose padding isn't 0 breaks it, at each place of the padding.
+func TestReaderPadding(t *testing.T) {
+	for n := range 17 {
+		b := Word(nil, strings.Repeat("t", n))
+		for i := NumberSize + n; i < len(b); i++ {
+			turned := append(slices.Clone(b), "behind it"...)
+			turned[i] = 1
+			r := NewReader(turned)
+			if x := r.Word(); x != nil || !r.Broken() || r.Left() != 0 {
+				t.Errorf("%d bytes, padding turned at %d: %q, %v", n, i, x, r.Broken())
+			}
+		}
+	}
+}
+
 // Where too little is left it is broken, and has no more bytes.
 func TestReaderShort(t *testing.T) {
 	for _, x := range []struct {
@@ -38,6 +72,12 @@ func TestReaderShort(t *testing.T) {
 	}{
 		{"a byte of none", "", func(r *Reader) int { return int(r.Octet()) }},
 		{"a number of three bytes", "\x01\x02\x03", (*Reader).Half},
+		{"a number of seven bytes", "\x01\x02\x03\x04\x05\x06\x07", (*Reader).Number},
+		{"a word whose number is cut off", "\x00\x00\x00\x00\x00\x00\x00", func(r *Reader) int { return len(r.Word()) }},
+		{"a word that is cut off", "\x03\x00\x00\x00\x00\x00\x00\x00ab", func(r *Reader) int { return len(r.Word()) }},
+		{"a word whose padding is cut off", "\x03\x00\x00\x00\x00\x00\x00\x00abc\x00\x00\x00\x00", func(r *Reader) int { return len(r.Word()) }},
+		{"a word that is far too long", "\xff\xff\xff\xff\xff\xff\xff\x7fabcdefgh", func(r *Reader) int { return len(r.Word()) }},
+		{"a word of fewer than no bytes", "\xff\xff\xff\xff\xff\xff\xff\xffabcdefgh", func(r *Reader) int { return len(r.Word()) }},
 		{"a text whose number is cut off", "\x00\x00", func(r *Reader) int { return len(r.Text()) }},
 		{"a text that is cut off", "\x03\x00\x00\x00ab", func(r *Reader) int { return len(r.Text()) }},
 		{"a text that is far too long", "\xff\xff\xff\xffab", func(r *Reader) int { return len(r.Text()) }},
@@ -46,7 +86,7 @@ func TestReaderShort(t *testing.T) {
 		if n := x.take(&r); n != 0 || !r.Broken() || r.Left() != 0 {
 			t.Errorf("%s: %d, %v, %d left", x.what, n, r.Broken(), r.Left())
 		}
-		if r.Octet() != 0 || r.Half() != 0 || len(r.Text()) != 0 || !r.Broken() {
+		if r.Octet() != 0 || r.Half() != 0 || r.Number() != 0 || len(r.Text()) != 0 || len(r.Word()) != 0 || !r.Broken() {
 			t.Errorf("%s: goes on", x.what)
 		}
 	}

@@ -38,7 +38,7 @@ func objectOf(o api.Object, ark int) object {
 
 // right says whether an object may come onto a shelf that has its ark.
 func (o object) right() bool {
-	return fit.Label(o.label) && fit.Refs(o.refs) && fit.Maker(o.maker) && o.ca <= api.ByFlat
+	return fit.Label(o.label) && fit.Refs(o.refs) && fit.Maker(o.maker) && fit.Ca(o.ca)
 }
 
 // equals says whether another object of this label is the same.

@@ -1,0 +1,51 @@
+package wire
+
+import (
+	"bytes"
+
+	"graft/api"
+	"graft/fit"
+	"graft/label"
+	"graft/lay"
+)
+
+// readBody is the object that a body is, in new memory; false if it isn't that of a right one.
+func readBody(body []byte) (api.Object, bool) {
+	r := lay.NewReader(body)
+	o := api.Object{Label: readLabel(&r), Refs: readRefs(&r), Maker: string(r.Word()), Ca: readCa(&r), Ark: r.Word()}
+	if r.Broken() || r.Left() > 0 || !fit.Object(o) {
+		return api.Object{}, false
+	}
+	o.Ark = bytes.Clone(o.Ark)
+	return o, true
+}
+
+func readLabel(r *lay.Reader) api.Label {
+	l, e, _ := label.Parse(string(r.Word()))
+	if e != api.OK {
+		r.Break()
+	}
+	return l
+}
+
+func readRefs(r *lay.Reader) []api.Label {
+	n := r.Number()
+	if n < 0 || n > api.MaxRefs {
+		r.Break()
+		return nil
+	}
+	var out []api.Label
+	for range n {
+		out = append(out, readLabel(r))
+	}
+	return out
+}
+
+// readCa looks at the whole number: a Ca would hold its lowest byte alone.
+func readCa(r *lay.Reader) api.Ca {
+	n := r.Number()
+	if n < 0 || n > int(api.ByFlat) {
+		r.Break()
+	}
+	return api.Ca(n)
+}
