@@ -12,7 +12,12 @@ import (
 // readBody is the object that a body is, in new memory; false if it isn't that of a right one.
 func readBody(body []byte) (api.Object, bool) {
 	r := lay.NewReader(body)
-	o := api.Object{Label: readLabel(&r), Refs: readRefs(&r), Maker: string(r.Word()), Ca: readCa(&r), Ark: r.Word()}
+	var o api.Object
+	o.Label = readLabel(&r)
+	o.Refs = readRefs(&r)
+	o.Maker = string(r.Word())
+	o.Ca = readCa(&r)
+	o.Ark = r.Word()
 	if r.Broken() || r.Left() > 0 || !fit.Object(o) {
 		return api.Object{}, false
 	}
@@ -20,11 +25,9 @@ func readBody(body []byte) (api.Object, bool) {
 	return o, true
 }
 
+// readLabel is the label whose text comes; if it is none, the zero one, which no right object has.
 func readLabel(r *lay.Reader) api.Label {
-	l, e, _ := label.Parse(string(r.Word()))
-	if e != api.OK {
-		r.Break()
-	}
+	l, _, _ := label.Parse(string(r.Word()))
 	return l
 }
 

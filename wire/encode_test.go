@@ -77,12 +77,18 @@ func TestEncode(t *testing.T) {
 	}
 }
 
-// A field that the Op doesn't have must be empty or 0; one that it has may be filled alone.
+// A field that the Op doesn't have must be empty or 0, and the least that may be in it is too much; one that it has may be filled alone.
 func TestEncodeFields(t *testing.T) {
+	least := map[byte]func(a *api.Ask){
+		'L': func(a *api.Ask) { a.Labels = []api.Label{la} }, 'T': func(a *api.Ask) { a.Text = "\x00" }, 'D': func(a *api.Ask) { a.Data = []byte{0} }, 'N': func(a *api.Ask) { a.Number = 1 },
+	}
 	for op, fields := range plainFields {
-		for _, field := range []byte("LTDN") {
-			for _, a := range []api.Ask{{Op: op}, fullAsk(op)} {
-				fill(&a, field)
+		for field, put := range least {
+			bare, full, other := api.Ask{Op: op}, fullAsk(op), fullAsk(op)
+			put(&bare)
+			put(&full)
+			fill(&other, field)
+			for _, a := range []api.Ask{bare, full, other} {
 				if strings.IndexByte(fields, field) < 0 {
 					refusesAsk(t, a, api.ErrWire)
 				} else {
