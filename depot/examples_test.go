@@ -87,3 +87,30 @@ func TestExamplesOfOthers(t *testing.T) {
 		t.Errorf("the example 8: %s", namesOf(got))
 	}
 }
+
+// The example 3's files, as another program made them.
+func TestExampleBytes(t *testing.T) {
+	files := newBoth(t, two()...).pushes(nil, []api.Label{la}, "none", home)
+	want := `"040h2081040h2081040h2081040h2081.card" 391 65aa667e60a762974b80f0fa03f3e2ea5635426aa6f1ef18fe69f38260210e00
+"081040h2081040h2081040h2081040h2.card" 356 ee6ceded0ddd3aedc726c86483d402e33da5290ece26217546fced809dc091a5
+"ark/1cqhi9lx7488p458s2v678dqljlljjylzddmaj1lnjg2w78vg2ar.ark" 152 5989b7d1e1e2494b8354b5b54fbd94944a8a1b3a660b8d0ab90891d3698a10b3
+"ark/1jib7psp81yyqvqh2bqz90igyvb57lpfabnz1hm95invipx3f95l.ark" 120 b42437fa8ddbc6922a0cdf2ee52e3d656dff22481f2f01f1c6de0774f53d2bca
+"depot.card" 41 2bedf4c552f5968152cd4c6f54b9f68292cb979e82149a0815f40ddeb435d120
+`
+	if got := showFiles(files); got != want {
+		t.Errorf("%s\nwant %s", got, want)
+	}
+	text := `Label: /graft/store/040h2081040h2081040h2081040h2081-a
+Url: ark/1cqhi9lx7488p458s2v678dqljlljjylzddmaj1lnjg2w78vg2ar.ark
+Press: none
+FileSum: sha256:1cqhi9lx7488p458s2v678dqljlljjylzddmaj1lnjg2w78vg2ar
+FileSize: 152
+ArkSum: sha256:1cqhi9lx7488p458s2v678dqljlljjylzddmaj1lnjg2w78vg2ar
+ArkSize: 152
+Refs: 081040h2081040h2081040h2081040h2-b
+Mark: k:LQ8CDywy7S7sMwgAyLON6y3Hmu6DPVfrcb68vzOq+9c=
+`
+	if got := string(dataOf(files, cardOf(la))); got != text {
+		t.Errorf("%s\nwant %s", got, text)
+	}
+}
