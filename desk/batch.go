@@ -1,6 +1,10 @@
 package desk
 
-import "graft/api"
+import (
+	"sync"
+
+	"graft/api"
+)
 
 // answer is what came of a play: its number, and its text.
 type answer struct {
@@ -8,7 +12,7 @@ type answer struct {
 	text   string
 }
 
-// gathered lets so many workers play; all of them have left when it answers. Answers come in any order: each goes by its number.
+// gathered lets so many workers play; all of them have ended when it answers. Answers come in any order: each goes by its number.
 func gathered(plays []string, workers int) []string {
 	numbers := make(chan int, len(plays))
 	for n := range plays {
@@ -16,13 +20,16 @@ func gathered(plays []string, workers int) []string {
 	}
 	close(numbers)
 	answers, leaving := make(chan answer), make(chan int)
+	var ended sync.WaitGroup
 	b := new(book)
 	for range workers {
+		ended.Add(1)
 		go func() {
+			defer ended.Done()
 			for n := range numbers {
 				answers <- answer{n, withFault(plays[n], b)}
 			}
-			leaving <- 1 // its last answer was taken
+			leaving <- 1 // all its answers were taken
 		}()
 	}
 	out := make([]string, len(plays))
@@ -34,6 +41,7 @@ func gathered(plays []string, workers int) []string {
 			left -= n
 		}
 	}
+	ended.Wait()
 	return out
 }
 

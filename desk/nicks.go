@@ -39,7 +39,7 @@ func letters(text string) int {
 
 // isNick tells whether a word is a nick, without a mark.
 func isNick(word string) bool {
-	return word != "" && letters(word) == len(word)
+	return letters(word) == len(word)
 }
 
 // label is what a nick stands for, with a mark or without.

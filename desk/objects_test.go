@@ -360,6 +360,7 @@ func TestRefusals(t *testing.T) {
 		{api.Outcome{Err: 120, At: api.Label{Name: ".x"}}, "no 120 ?\n"},
 		{api.Outcome{Err: 150, At: a, Other: odd}, "no 150 " + baseA + " ?\n"},
 		{api.Outcome{Err: 150, At: odd, Other: a}, "no 150 ? " + baseA + "\n"},
+		{api.Outcome{Err: 150, Other: a}, "no 150\n"},
 	} {
 		w := newWorld()
 		w.refuseFor(c.o)

@@ -23,7 +23,7 @@ func cutWord(line string) (word, behind string) {
 
 func number(n int) string { return strconv.Itoa(n) }
 
-// numberOf is the number that a word says.
+// numberOf is the number that a word says. (A word has a byte at least.)
 func numberOf(word string) (int, bool) {
 	if len(word) > mostDigits {
 		return 0, false
@@ -35,7 +35,7 @@ func numberOf(word string) (int, bool) {
 		}
 		n = 10*n + int(word[i]-'0')
 	}
-	return n, word != ""
+	return n, true
 }
 
 // given is what a command was given, each kind by itself, in the order of the words.
@@ -158,9 +158,9 @@ func digits(w *world, g *given, word string) bool {
 	return e == api.OK
 }
 
-// aHash takes a label's digits: of all texts only those of 32 digits come to so many bytes.
+// aHash takes a label's digits: of all texts only those of 32 digits come to so many bytes, and what is no digits comes to none.
 func aHash(w *world, g *given, word string) bool {
-	data, e, _ := digest.UnBase32(word)
+	data, _, _ := digest.UnBase32(word)
 	copy(g.hash[:], data)
-	return e == api.OK && len(data) == len(g.hash)
+	return len(data) == len(g.hash)
 }

@@ -118,7 +118,7 @@ func TestNumbers(t *testing.T) {
 	for _, word := range []string{"0", "7", "10", "007", "000000000", "000000001", "999999999"} {
 		tellsAll(t, "collect "+word, "swept 0 freed 0")
 	}
-	for _, word := range []string{"1234567890", "0000000000", "0000000001", "+1", "-1", "-0", "1.0", "1,0", "1_0", "1e3", "0x1", "x", "1x", "$1", "1!", "１", "1\t", "\x00"} {
+	for _, word := range []string{"1234567890", "0000000000", "0000000001", "+1", "-1", "-0", "1.0", "1,0", "1_0", "1e3", "0x1", "x", "1x", "$1", "1!", "１", "1\t", "\x00", ":", "1:", "/", "1/"} {
 		fails(t, api.ErrGiven, "collect "+word)
 	}
 	tellsAll(t, "store 000000003", "store 3")
@@ -163,7 +163,7 @@ func wrongWords(kind string) []string {
 	case "STORE":
 		return append(numbers, "0", "5", "12", "000000005", "00")
 	case "NEW":
-		return []string{"A", "aB", "a!", "n!", "!", "a_b", "a-b", "a.", strings.Repeat("z", 17), longNick + "f", "é", "\t", "a\r", "$a", "%a", "#"}
+		return []string{"A", "aB", "a!", "n!", "!", "a_b", "a-b", "a.", strings.Repeat("z", 17), longNick + "f", "é", "\t", "a\r", "$a", "%a", "#", "a`", "a{", "a/", "a:"}
 	case "NICK":
 		return []string{"z", "A", "a!!", "b!", "!", "!a", "a!b", "$a", "%a", longNick, strings.Repeat("a", 17), strings.Repeat("a", 17) + "!", "a\t", "\xff"}
 	case "HASH":
