@@ -180,7 +180,7 @@ func TestMakeRefused(t *testing.T) {
 	tells(t, lines("label o "+out[:32]+" x", "guest o other", "import", makes, "make r", "label o "+out[:32]+" x", "show o"), "no 8", "label o "+out, showLine(out, 0, 0, "other"))
 }
 
-// A sum in the form of 64 digits is no reading of the chapter: a made's key is its recipe's sum and the output's name.
+// A made is told by its key: its recipe's sum in base 16, and the output's name.
 func TestMadeKey(t *testing.T) {
 	got := last(t, lines(makes, "make r"))
 	key, _, _ := strings.Cut(got, " ")

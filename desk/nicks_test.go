@@ -24,7 +24,7 @@ func TestNicks(t *testing.T) {
 	tells(t, lines("label a "+a+" x", "guest a hi", "label a "+b+" y", "import", "list"), "list 1", a+"-x")
 }
 
-// renamedTo is the base of the label that a nick's guest, with this text, is renamed to.
+// renamedTo is the base of the label that a nick's guest was renamed to by commands.
 func renamedTo(t *testing.T, commands, nick string) string {
 	t.Helper()
 	return baseIn(last(t, lines(commands, "lookup "+nick)))

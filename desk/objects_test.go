@@ -246,7 +246,7 @@ func TestTree(t *testing.T) {
 	tells(t, lines(abc, "tree d x $a", "show d"), "tree d "+treeBase("x", hashA), fmt.Sprintf("show %s ca=2 refs=0 size=%d sum=%s", treeBase("x", hashA), len(treeArk(hashA)), plainSum(treeArk(hashA))))
 }
 
-// memberBase is what a guest is called that mentions nothing, or itself at a place, and refers to own objects.
+// memberBase is what a guest that leads to no other one is called when it is renamed behind commands.
 func memberBase(t *testing.T, commands, nick string) string {
 	t.Helper()
 	line := last(t, lines(commands, "rewrite "+nick))

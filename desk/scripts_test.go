@@ -222,3 +222,43 @@ func TestScripts(t *testing.T) {
 		t.Errorf("never seen: %q; faults: %v", lack, faults)
 	}
 }
+
+// anyLine is a command, or nearly one, with words and bytes behind it by chance.
+func (c chance) anyLine(commands []string) string {
+	out := pick(c.Rand, "", "", "", " ", "#", "\t") + pick(c.Rand, commands...)
+	for range c.IntN(5) {
+		out += pick(c.Rand, " ", " ", " ", "  ", "", "\t", "\x00")
+		out += pick(c.Rand, "a", "a!", "b", "t", "r", "z", "1", "2", "0", "00", "255", "256", "1234567890", zeros, "app", ".x", "k", "$a", "%t", "$$", "$", "%z", "!", "A", "ff", "\xff", "#", string(rune('a'+c.IntN(26))))
+	}
+	return out
+}
+
+// Lines by chance, most of which are faults: each behind the same play, by both readings.
+func TestAnyLine(t *testing.T) {
+	var commands []string
+	for command := range plainRows() {
+		commands = append(commands, command)
+	}
+	slices.Sort(commands)
+	rounds := 6000
+	if testing.Short() {
+		rounds = 500
+	}
+	c := chance{sourceOf(77)}
+	seen := map[api.Errno]int{}
+	for range rounds {
+		line := c.anyLine(commands)
+		plain, _, _ := plainPlay(grounds)
+		want := plain.play(line)
+		w := newWorld()
+		b := new(book)
+		w.play(grounds, b)
+		seen[want]++
+		if got := w.line(line, b); got != want || w.out.String() != plain.text || stateOf(w) != plainStateOf(plain) {
+			t.Fatalf("P18.1: %q: %d, want %d\n%s\nwant\n%s", line, got, want, w.out.String(), plain.text)
+		}
+	}
+	if seen[api.OK] < rounds/20 || seen[api.ErrGiven] < rounds/20 || seen[api.ErrWord] < rounds/20 {
+		t.Errorf("seen: %v", seen)
+	}
+}

@@ -190,7 +190,7 @@ var rightRests = []string{"", " ", "hi", "  hi  ", "$a", "%a!", "$t", "$$5 and 1
 
 var wrongRests = []string{"$", "%", " $", "5$", "100%", "$ a", "% a", "$z", "%z", "$!", "%!", "$A", "$b!", "$az", "$%", "%$", "$$$", "%%%", "$a$", "%a%", "$a $z", "$\xff", "$#"}
 
-// played alone behind grounds, a line is a fault or not; a fault changes nothing.
+// faulty tells whether a line behind grounds is a fault, and holds that a fault changes nothing.
 func faulty(t *testing.T, line string) bool {
 	t.Helper()
 	w := newWorld()
@@ -209,7 +209,7 @@ func faulty(t *testing.T, line string) bool {
 	return true
 }
 
-// split kinds: those of the words, and whether REST stands behind them.
+// wordKinds is the kinds of a command's words, and whether REST stands behind them.
 func wordKinds(kinds []string) ([]string, bool) {
 	var out []string
 	for _, k := range kinds {
