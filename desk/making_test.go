@@ -177,6 +177,7 @@ func TestMakeRefused(t *testing.T) {
 	tells(t, lines(makes, "store 2", "make r"), "store 2", "no 7")
 	// Something else came under an output's label.
 	out := baseIn(last(t, lines(makes, "make r")))
+	tells(t, lines("label o "+out[:32]+" other", "guest o other", "import", makes, "make r"), "no 121")
 	tells(t, lines("label o "+out[:32]+" x", "guest o other", "import", makes, "make r", "label o "+out[:32]+" x", "show o"), "no 8", "label o "+out, showLine(out, 0, 0, "other"))
 }
 

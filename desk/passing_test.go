@@ -249,3 +249,29 @@ func TestAsk(t *testing.T) {
 		fails(t, api.ErrGiven, line)
 	}
 }
+
+// turns is the commands that lay a text over the bytes of a file of the depot, at the one place where another text of that length stands.
+func turns(t *testing.T, w *world, file int, old, new string) string {
+	t.Helper()
+	data := string(w.files[file].Data)
+	at := strings.Index(data, old)
+	if at < 0 || len(old) != len(new) || strings.Count(data, old) != 1 {
+		t.Fatalf("%q stands %d times in %s", old, strings.Count(data, old), w.files[file].Name)
+	}
+	var out []string
+	for i := range len(new) {
+		out = append(out, fmt.Sprintf("turn %d %d %d", file, at+i, new[i]))
+	}
+	return lines(out...)
+}
+
+// A card that says another word of how its object is called.
+func TestPullWrong(t *testing.T) {
+	head := "text t x 1\npush t"
+	turned := lines(head, turns(t, worldBehind(t, head), 0, ": text\n", ": flat\n"), "store 2")
+	tells(t, lines(turned, "pull t", "list"), "no 156", "list 0")
+	// Signed, the card is not trusted: that is asked for first.
+	signed := "key k 00\n" + head
+	turned = lines(signed, turns(t, worldBehind(t, signed), 0, ": text\n", ": flat\n"), "store 2")
+	tells(t, lines(turned, "pull t", "list"), "no 103", "list 0")
+}
